@@ -67,7 +67,7 @@ func brief(b []byte) string {
 // join tells bytes one behind the other, in new memory.
 func join(l ...[]byte) []byte { return bytes.Join(l, nil) }
 
-// plain tells bytes as a packing that is no shorter than they are.
+// plain tells a packing of bytes as they are.
 func plain(b []byte) []byte { return join([]byte{0}, b) }
 
 // tokens tells a packing of tokens.

@@ -70,7 +70,7 @@ func TestShortOfBytesThatAreAlike(t *testing.T) {
 	}
 }
 
-// P15.4: at most one byte more, of bytes that have no shorter form, of any length.
+// P15.4: at most one byte more, of bytes whose tokens are not fewer, of any length.
 func TestShortOfAnyBytes(t *testing.T) {
 	d := dice(5)
 	for n := range 1500 {

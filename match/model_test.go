@@ -46,7 +46,7 @@ func modelPack(b []byte) []byte {
 		}
 		p++
 	}
-	out := []byte{1}
+	var out []byte
 	for i, part := range parts {
 		if kinds[i] {
 			out = append(out, byte(len(part)-1))
@@ -56,7 +56,7 @@ func modelPack(b []byte) []byte {
 	if len(out) >= len(b) {
 		return plain(b)
 	}
-	return out
+	return tokens(out)
 }
 
 // part tells tokens one by one; the last one may end early.

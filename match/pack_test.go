@@ -12,7 +12,8 @@ import (
 func TestPackTexts(t *testing.T) {
 	for _, x := range []struct{ b, want string }{
 		{"abc", "\x00abc"}, {"aaaaaaaaa", "\x01\x00a\x84\x01"},
-		{"", "\x00"}, {"a", "\x00a"}, {"\x00", "\x00\x00"}, {"\x01", "\x00\x01"}, {"ab", "\x00ab"}, {"aa", "\x00aa"}, {"aaa", "\x00aaa"}, {"aaaa", "\x00aaaa"},
+		{"", "\x00"}, {"a", "\x00a"}, {"\x00", "\x00\x00"}, {"\x01", "\x00\x01"}, {"ab", "\x00ab"}, {"aa", "\x00aa"}, {"aaa", "\x00aaa"}, {"aaaa", "\x00aaaa"}, {"aaaaa", "\x01\x00a\x80\x01"}, {"aaaaaa", "\x01\x00a\x81\x01"},
+		{"aabaaba", "\x01\x02aab\x80\x03"}, {"aabaabab", "\x00aabaabab"}, {"abcabcabx", "\x01\x02abc\x81\x03\x00x"}, {"abcdabcd", "\x01\x03abcd\x80\x04"},
 		{"abababab", "\x01\x01ab\x82\x02"}, {"abcabcabcabc", "\x01\x02abc\x85\x03"}, {"abcdefabcdef", "\x01\x05abcdef\x82\x06"},
 		{"abcdefabcdefx", "\x01\x05abcdef\x82\x06\x00x"}, {"xabcdefabcdefxyz", "\x01\x06xabcdef\x82\x06\x02xyz"},
 		{"aaaaaaabbbbbbb", "\x01\x00a\x82\x01\x00b\x82\x01"}, {"aaaaaaaxaaaaaaa", "\x01\x00a\x82\x01\x00x\x83\x08"},
@@ -29,31 +30,37 @@ func TestPackOfNoBytes(t *testing.T) {
 	}
 }
 
-// P15.1: up to 4 bytes have no shorter form, whatever they are.
+// P15.1: up to 4 bytes have more bytes of tokens, whatever they are; 5 that are alike have fewer.
 func TestPackOfFewBytes(t *testing.T) {
 	for x := range 256 {
 		for n := range 5 {
 			wantPlain(t, same(byte(x), n))
+		}
+		for n := range 4 {
 			wantPlain(t, join(same(byte(x), n), []byte{7}))
 		}
+		wantPlain(t, join(same(byte(x), 4), []byte{byte(x + 1)}))
+		wantTokens(t, same(byte(x), 5), run([]byte{byte(x)}), copied(4, 1))
 	}
 }
 
-// P15.1: a packing that is just as long as the bytes is none, one that is a byte shorter is.
-func TestPackIsShorter(t *testing.T) {
-	wantPlain(t, []byte("aaaaa"))
-	wantTokens(t, []byte("aaaaaa"), word("a"), copied(5, 1))
-	wantPlain(t, []byte("abcdabcd"))
+// P15.1: tokens that are as many bytes as there are bytes are not told, such as are one fewer are; the byte 1 ahead of them is not counted.
+func TestPackOfFewerBytesOfTokens(t *testing.T) {
+	wantPlain(t, []byte("abcda"))
+	wantTokens(t, []byte("aaaaa"), word("a"), copied(4, 1))
+	wantTokens(t, []byte("aabaaba"), word("aab"), copied(4, 3))
+	wantPlain(t, []byte("aabaabab"))
+	wantTokens(t, []byte("abcdabcd"), word("abcd"), copied(4, 4))
 	wantTokens(t, []byte("abcdabcda"), word("abcd"), copied(5, 4))
-	wantTokens(t, []byte("abcdeabcde"), word("abcde"), copied(5, 5))
 	wantPlain(t, []byte("abcdabcdx"))
+	wantTokens(t, []byte("abcdabcdax"), word("abcd"), copied(5, 4), word("x"))
 	wantPlain(t, []byte("aaaaaxyz"))
-	wantPlain(t, []byte("aaaaaaxyz"))
-	wantTokens(t, []byte("aaaaaaaxyz"), word("a"), copied(6, 1), word("xyz"))
-	for count := 4; count <= 131; count++ { // a copy saves all but 2 of its bytes, 1 goes to each run, and 1 to the packing
+	wantTokens(t, []byte("aaaaaaxyz"), word("a"), copied(5, 1), word("xyz"))
+	wantTokens(t, []byte("abcabcabx"), word("abc"), copied(5, 3), word("x"))
+	for count := 4; count <= 131; count++ { // a copy saves all but 2 of its bytes, and 1 goes to each run
 		for n := count; n <= 255; n++ {
 			b := join(rising(n), rising(count))
-			if costs := 1 + (n+127)/128 + 2; costs < count {
+			if costs := (n+127)/128 + 2; costs < count {
 				wantTokens(t, b, runs(rising(n)), copied(count, n))
 			} else {
 				wantPlain(t, b)
